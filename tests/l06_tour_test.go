@@ -783,6 +783,45 @@ func TestVertsOf(t *testing.T) {
 	}
 }
 
+// What is below 0, or MaxVerts and above, is no vertex, wherever it stands and whatever stands beside it.
+func TestVertsOfLeavesOutWhatIsNoVertex(t *testing.T) {
+	none := []int{math.MinInt, -impl.MaxVerts, -2, -1, impl.MaxVerts, impl.MaxVerts + 1, 100, math.MaxInt}
+	for _, c := range []struct{ t, want []int }{
+		{none, nil}, {slices.Repeat(none, 3), nil},
+		{[]int{-1, 7, 7, 10}, []int{7, 10}},
+		{[]int{0, impl.MaxVerts - 1, impl.MaxVerts}, []int{0, impl.MaxVerts - 1}},
+		{[]int{-1, 0, -1}, []int{0}},
+		{slices.Concat(none, longTour(), none), []int{0, 1, 2, 3, 4, 5, 6, 7, 8, 9, 10, 11}},
+	} {
+		if got := impl.VertsOf(c.t); !slices.Equal(got, c.want) {
+			t.Errorf("VertsOf(%v) = %v; want %v", c.t, got, c.want)
+		}
+	}
+	for _, odd := range none {
+		if got := impl.VertsOf([]int{odd}); len(got) != 0 {
+			t.Errorf("VertsOf of %d alone = %v; want nothing", odd, got)
+		}
+		for _, tour := range drawnTours() {
+			for place := range len(tour) + 1 {
+				list := slices.Insert(slices.Clone(tour), place, odd)
+				if got, want := impl.VertsOf(list), vertsByWords(tour); !slices.Equal(got, want) {
+					t.Fatalf("VertsOf(%v) = %v; want %v", list, got, want)
+				}
+			}
+		}
+	}
+	drawn := drawnNumber(96)
+	for size := range 200 {
+		list := []int{}
+		for range size {
+			list = append(list, drawn.below(3*impl.MaxVerts)-impl.MaxVerts)
+		}
+		if got, want := impl.VertsOf(list), vertsByWords(list); !slices.Equal(got, want) {
+			t.Fatalf("VertsOf(%v) = %v; want %v", list, got, want)
+		}
+	}
+}
+
 // A tree that lives for long has, whatever is done to it, just the edges that were joined and not split.
 func TestToursForLong(t *testing.T) {
 	drawn := drawnNumber(76)
